@@ -1,6 +1,7 @@
 package master_test
 
 import (
+	"bytes"
 	"fmt"
 	"math/rand"
 	"slices"
@@ -164,6 +165,7 @@ func TestManyCommands(t *testing.T) {
 		rnd := rand.New(rand.NewSource(seed))
 		groups := 1 + int(seed)%maxGroups
 		m, n := made(t, groups), newModel(groups)
+		was := m.Save()
 		for i := range 500 {
 			c := someCommand(rnd, n)
 			client, seq := rnd.Intn(5), i/2+rnd.Intn(4)-1
@@ -179,10 +181,14 @@ func TestManyCommands(t *testing.T) {
 			if got.Do != 0 {
 				codes[fmt.Sprint("Do ", got.Do)]++
 			}
-			other := loaded(t, what, m.Save())
-			wantSaved(t, what+": loaded", other, m.Save())
-			if rnd.Intn(3) == 0 {
-				m = other
+			// What was loaded is not loaded once more.
+			if b := m.Save(); !bytes.Equal(b, was) {
+				was = b
+				other := loaded(t, what, b)
+				wantSaved(t, what+": loaded", other, b)
+				if rnd.Intn(3) == 0 {
+					m = other
+				}
 			}
 			if t.Failed() {
 				return
@@ -195,6 +201,28 @@ func TestManyCommands(t *testing.T) {
 	} {
 		if codes[x] < 20 {
 			t.Errorf("the commands hardly tell %s: %v", x, codes)
+		}
+	}
+}
+
+// TestManyClients: plans of any number of clients, carried out or not; what is saved then is loaded.
+func TestManyClients(t *testing.T) {
+	for i, clients := range []int{1, 2, 3, 8, 30, 100, 256} {
+		rnd := rand.New(rand.NewSource(int64(i)))
+		for groups := 1; groups <= maxGroups; groups++ {
+			m := made(t, groups)
+			for seq := 1; seq <= 120; seq++ {
+				do := []int{api.DoMove, api.DoSplit, api.DoSplit, api.DoMerge}[rnd.Intn(4)]
+				a := m.Do(rnd.Intn(clients), seq, planned(do, string(rune('a'+rnd.Intn(26))), rnd.Intn(groups+1)))
+				if a.Code == api.OK && rnd.Intn(9) > 0 {
+					m.Do(0, 0, []api.Command{publish(a.Gen), publish(a.Gen), leave(a.Gen)}[rnd.Intn(3)])
+				}
+				b := m.Save()
+				what := fmt.Sprintf("P12.2: %d clients, %d groups, number %d", clients, groups, seq)
+				other := loaded(t, what, b)
+				wantSaved(t, what, other, b)
+				wantPicture(t, what, other, picture(m))
+			}
 		}
 	}
 }
