@@ -4,8 +4,6 @@ import (
 	"slices"
 
 	"wardmote/api"
-	"wardmote/octet"
-	"wardmote/span"
 )
 
 // groupSet has groups of tablets, a bit for each.
@@ -36,32 +34,65 @@ func (s groupSet) each() []groupSet {
 }
 
 // area is a part of all names, at some time, as far as it is known what was
-// there: one tablet, or, if it is open, any tablets at all.
+// there: one tablet, or, if it is open, any tablets at all. Where it begins or
+// ends in a gap, any name of that gap is as good.
 type area struct {
-	span   api.Span
+	lo, hi edge
 	groups groupSet // the tablet was in one of these
 	gen    int      // the tablet's Gen; 0, if it may have been any
 	open   bool
 	fresh  bool // see past
-	loose  bool // it begins at a name that no known plan tells of: another one would be as good
+}
+
+// isCutBy tells whether e is within x.
+func (x area) isCutBy(e edge) bool {
+	return x.lo < e && e < x.hi
+}
+
+// areaOf answers an area with this tablet.
+func (l names) areaOf(t api.Tablet) area {
+	return area{lo: l.lo(t.Span.Lo), hi: l.hi(t.Span.Hi), groups: setOf(t.Group), gen: t.Gen, fresh: true}
 }
 
 // areasOf answers areas with these tablets.
-func areasOf(l []api.Tablet) []area {
+func (l names) areasOf(tablets []api.Tablet) []area {
 	var out []area
-	for _, t := range l {
-		out = append(out, area{span: t.Span, groups: setOf(t.Group), gen: t.Gen, fresh: true})
+	for _, t := range tablets {
+		out = append(out, l.areaOf(t))
 	}
 	return out
 }
 
-// sources answers areas with the tablets that the plan was made of. Of a merge it does not tell their Gens.
-func sources(plan api.Answer) []area {
-	if plan.Do != api.DoMerge {
-		return areasOf([]api.Tablet{{Span: plan.Span, Group: plan.Group, Gen: plan.Old}})
+// known is a plan that a client was told.
+type known struct {
+	gen, do  int
+	lo, hi   edge
+	cut      edge   // where it cuts its span, if it is no move
+	from, to []area // what it was made of, and what is there if it is carried out
+}
+
+func (l names) knownOf(plan api.Answer) known {
+	k := known{gen: plan.Gen, do: plan.Do, lo: l.lo(plan.Span.Lo), hi: l.hi(plan.Span.Hi), cut: l.lo(cutOf(plan)), to: l.areasOf(made(plan))}
+	k.from = []area{l.areaOf(api.Tablet{Span: plan.Span, Group: plan.Group, Gen: plan.Old})}
+	if plan.Do == api.DoMerge {
+		// Of what is merged no Gens are told.
+		k.from = parted(k.from[0], k.cut)
 	}
-	below, above, _ := span.Split(plan.Span, plan.At)
-	return areasOf([]api.Tablet{{Span: below, Group: plan.Group}, {Span: above, Group: plan.Group}})
+	return k
+}
+
+// parted answers both parts of x, of any Gens.
+func parted(x area, at edge) []area {
+	below, above := x, x
+	below.hi, above.lo = at, at
+	below.gen, above.gen = 0, 0
+	below.fresh, above.fresh = true, true
+	return []area{below, above}
+}
+
+// meets tells whether k is about some of x.
+func (k known) meets(x area) bool {
+	return k.lo < x.hi && x.lo < k.hi
 }
 
 // replaced answers l with these in the place of l[i:j].
@@ -73,7 +104,7 @@ func replaced(l []area, i, j int, by ...area) []area {
 func renewed(l []area, fresh bool) []area {
 	l = slices.Clone(l)
 	for i := range l {
-		l[i].fresh = fresh
+		l[i].fresh = fresh && !l[i].open
 	}
 	return l
 }
@@ -83,7 +114,13 @@ func hasGen(l []area, gen int) bool {
 	return slices.ContainsFunc(l, func(x area) bool { return x.gen == gen })
 }
 
-// withAll answers l, where it is known of all these areas too; false, if not all of it can be.
+// begins tells whether one of l begins at e.
+func begins(l []area, e edge) bool {
+	return slices.ContainsFunc(l, func(x area) bool { return x.lo == e })
+}
+
+// withAll answers l, where it is known of all these areas too, which begin and
+// end at names; false, if not all of it can be.
 func withAll(l, more []area) ([]area, bool) {
 	ok := true
 	for _, x := range more {
@@ -95,7 +132,7 @@ func withAll(l, more []area) ([]area, bool) {
 }
 
 func with(l []area, x area) ([]area, bool) {
-	i := slices.IndexFunc(l, func(y area) bool { return span.Has(y.span, x.span.Lo) })
+	i := slices.IndexFunc(l, func(y area) bool { return y.lo <= x.lo && x.lo < y.hi })
 	y := l[i]
 	switch {
 	case y.open:
@@ -111,56 +148,55 @@ func with(l []area, x area) ([]area, bool) {
 
 // agree tells whether two areas may be one and the same tablet.
 func agree(a, b area) bool {
-	return a.span == b.span && a.groups&b.groups != 0 && (a.gen == 0 || b.gen == 0 || a.gen == b.gen)
+	return a.lo == b.lo && a.hi == b.hi && a.groups&b.groups != 0 && (a.gen == 0 || b.gen == 0 || a.gen == b.gen)
 }
 
 // carved answers l with x in its place in l[i], which is open and has the name that x begins with.
 func carved(l []area, i int, x area) ([]area, bool) {
-	by := []area{x}
-	rest := l[i]
-	rest.fresh = true
-	if below, above, ok := span.Split(rest.span, x.span.Lo); ok {
-		low := rest
-		low.span, rest.span = below, above
-		by = []area{low, x}
+	y := l[i]
+	if x.hi > y.hi {
+		return nil, false
 	}
-	if rest.span != x.span {
-		_, above, ok := span.Split(rest.span, x.span.Hi)
-		if !ok {
-			return nil, false
-		}
-		rest.span, rest.loose = above, false
-		by = append(by, rest)
+	var by []area
+	if y.lo < x.lo {
+		by = append(by, area{lo: y.lo, hi: x.lo, groups: y.groups, open: true})
+	}
+	by = append(by, x)
+	if x.hi < y.hi {
+		by = append(by, area{lo: x.hi, hi: y.hi, groups: y.groups, open: true})
 	}
 	return replaced(l, i, i+1, by...), true
 }
 
-// behind answers the name right behind name; the empty one, if there is none.
-func behind(name string) string {
-	if len(name) < api.MaxName {
-		return name + "\x00"
+// openedBut answers l, where areas are open but those that are to be kept. Open ones that touch are one.
+func openedBut(l []area, groups groupSet, keep func(x area) bool) []area {
+	var out []area
+	for _, x := range l {
+		if !keep(x) {
+			x = area{lo: x.lo, hi: x.hi, groups: groups, open: true}
+		}
+		if n := len(out) - 1; n >= 0 && x.open && out[n].open {
+			out[n].hi = x.hi
+			continue
+		}
+		out = append(out, x)
 	}
-	n := len(name)
-	for n > 0 && name[n-1] == 0xff {
-		n--
-	}
-	if n == 0 {
-		return ""
-	}
-	return name[:n-1] + string([]byte{name[n-1] + 1})
+	return out
 }
 
-// keyOf answers all of l as a text; where l ends all names end.
-func keyOf(gen int, l []area) string {
-	w := octet.New()
-	w.Num(uint32(gen))
-	for _, x := range l {
-		w.Text([]byte(x.span.Lo))
-		w.Num(uint32(x.gen))
-		w.Byte(byte(x.groups))
-		w.Byte(flag(x.open, 1) | flag(x.fresh, 2) | flag(x.loose, 4))
+// keyOf answers all that is known of m as a text, but that gen stands for its Gen.
+func keyOf(gen int, m moment) string {
+	b := appendNumber(nil, gen)
+	b = append(b, flag(m.full, 1))
+	for _, x := range m.l {
+		b = append(b, byte(x.lo>>8), byte(x.lo), byte(x.groups)|flag(x.open, 32)|flag(x.fresh, 64))
+		b = appendNumber(b, x.gen)
 	}
-	return string(w.Done())
+	return string(b)
+}
+
+func appendNumber(b []byte, n int) []byte {
+	return append(b, byte(n>>24), byte(n>>16), byte(n>>8), byte(n))
 }
 
 func flag(is bool, bit byte) byte {
@@ -168,40 +204,4 @@ func flag(is bool, bit byte) byte {
 		return bit
 	}
 	return 0
-}
-
-// moveTable has how few moves lead to l[i:j] from one tablet in group g on, at [i][j][g].
-type moveTable [api.MaxTablets + 1][api.MaxTablets + 1][api.MaxGroups + 1]int8
-
-// fewestMoves answers how few moves lead to l from the first tablet on. Splits and merges leave all names in their groups.
-func fewestMoves(l []area) int {
-	t := &moveTable{}
-	for i := len(l) - 1; i >= 0; i-- {
-		for j := i + 1; j <= len(l); j++ {
-			for g := 1; g <= api.MaxGroups; g++ {
-				t[i][j][g] = t.fewest(l[i].groups, i, j, g)
-			}
-		}
-	}
-	return int(t[0][len(l)][first().Group])
-}
-
-// fewest answers the next entry of t: l[i], which is in one of groups, stayed in
-// g, or it was moved to h, by one move with all others ahead of some l[k].
-func (t *moveTable) fewest(groups groupSet, i, j, g int) int8 {
-	// A move for each is always enough.
-	n := int8(j - i)
-	for h := 1; h <= api.MaxGroups; h++ {
-		if !groups.has(h) {
-			continue
-		}
-		if h == g {
-			n = min(n, t[i+1][j][g])
-			continue
-		}
-		for k := i + 1; k <= j; k++ {
-			n = min(n, 1+t[i+1][k][h]+t[k][j][g])
-		}
-	}
-	return n
 }

@@ -160,6 +160,7 @@ func someCommand(rnd *rand.Rand, m *model) api.Command {
 
 // TestManyCommands: any commands; each tells what the model does, and the master is what it is.
 func TestManyCommands(t *testing.T) {
+	t.Parallel()
 	codes := map[string]int{}
 	for seed := range int64(60) {
 		rnd := rand.New(rand.NewSource(seed))
@@ -272,6 +273,7 @@ func smallCommands() []api.Command {
 
 // TestAllSmallOnes: each master that a few commands lead to is loaded from what it saves, as what it is.
 func TestAllSmallOnes(t *testing.T) {
+	t.Parallel()
 	type one struct {
 		saved []byte
 		next  [2]int

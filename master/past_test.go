@@ -139,6 +139,7 @@ func (x body) show() string {
 // requests lead to, what these save is loaded, and nothing else. It is cut at
 // one name alone; requests of which nothing is known may have cut elsewhere.
 func TestLoadOfFewRequests(t *testing.T) {
+	t.Parallel()
 	last := strings.Repeat("\xff", 15)
 	for _, most := range []struct {
 		groups, numbers, gens int

@@ -55,7 +55,8 @@ func (m *Master) rightReplies() bool {
 		}
 	}
 	plans := plansOf(l)
-	return rising(plans) && m.rightNumbers(l, plans) && mayHavePlanned(m.groups, upTo(plans, m.ended()), m.ended(), m.All())
+	full, ok := m.fullSince(l, plans)
+	return ok && rising(plans) && mayHaveBeen(question{m.groups, api.MaxTablets, upTo(plans, m.ended()), m.ended(), m.All(), full})
 }
 
 // plansOf answers the plans among what was told, in the order of their Gens.
@@ -96,12 +97,6 @@ func placeOf(plans []api.Answer, gen int) (int, bool) {
 	})
 }
 
-// isKnown tells whether one of these plans, by rising Gens, has gen.
-func isKnown(plans []api.Answer, gen int) bool {
-	_, there := placeOf(plans, gen)
-	return there
-}
-
 // tells tells whether a request for a plan may have been told a, as far as it tells that by itself.
 func (m *Master) tells(a api.Answer) bool {
 	if a.Code == api.OK {
@@ -139,82 +134,20 @@ func (m *Master) tellsPlan(a api.Answer) bool {
 	return false
 }
 
-// rightNumbers tells whether clients had numbers enough to be told all plans,
-// and, if one was told that there are MaxTablets, whether there may have been.
-func (m *Master) rightNumbers(l []reply, plans []api.Answer) bool {
+// fullSince answers the first Gen at which the last client may have been told
+// that there are MaxTablets, if clients had numbers enough to be told all plans
+// then; 0, if none was told that. It is false if they can't have been told all.
+func (m *Master) fullSince(l []reply, plans []api.Answer) (int, bool) {
 	if !m.wasFull(l) {
-		return m.mayTellAll(l, plans, m.ended())
+		return 0, m.mayTellAll(l, plans, m.ended())
 	}
-	full := sort.Search(m.ended()+1, func(gen int) bool {
-		return maySplit(plans, gen) >= api.MaxTablets-1 && m.mayTellAll(l, plans, gen)
-	})
-	if full > m.ended() {
-		return false
-	}
-	// The earlier there were so many, the more plans are left to make them less again, if these are no splits.
-	return slices.ContainsFunc(append(m.splitsBehind(full), full), func(gen int) bool {
-		return m.mayLessen(plans, gen)
-	})
+	full := sort.Search(m.ended()+1, func(gen int) bool { return m.mayTellAll(l, plans, gen) })
+	return max(full, first().Gen), full <= m.ended()
 }
 
 // wasFull tells whether a client was told that there are MaxTablets. If all Gens have been used up ErrFull tells just that.
 func (m *Master) wasFull(l []reply) bool {
 	return m.ended() < maxGen && slices.ContainsFunc(l, func(x reply) bool { return x.answer.Code == api.ErrFull })
-}
-
-// maySplit answers how many plans up to gen may have been splits.
-func maySplit(plans []api.Answer, gen int) int {
-	return gen - first().Gen - others(upTo(plans, gen), api.DoSplit)
-}
-
-// others answers how many of these plans do something else.
-func others(plans []api.Answer, do int) int {
-	n := 0
-	for _, plan := range plans {
-		if plan.Do != do {
-			n++
-		}
-	}
-	return n
-}
-
-// mayLessen tells whether plans behind the Gen full may have led from MaxTablets
-// to as many as there are. It asks how many of them may have been merges, not which.
-func (m *Master) mayLessen(plans []api.Answer, full int) bool {
-	less := api.MaxTablets - m.table.Len()
-	if less == 0 {
-		return true
-	}
-	splits := m.splitsBehind(full)
-	known := upTo(plans, m.ended())[len(upTo(plans, full)):]
-	merges := m.ended() - full - others(known, api.DoMerge)
-	for _, gen := range splits {
-		if !isKnown(known, gen) {
-			merges--
-		}
-	}
-	return m.newest() > full && merges >= less+len(splits)
-}
-
-// splitsBehind answers the Gens above gen of splits of which both parts are there.
-func (m *Master) splitsBehind(gen int) []int {
-	var gens []int
-	l := m.All()
-	for i := range l[1:] {
-		if l[i].Gen > gen && l[i].Gen == l[i+1].Gen {
-			gens = append(gens, l[i].Gen)
-		}
-	}
-	return gens
-}
-
-// newest answers the greatest Gen of the tablets: since then they are as they are.
-func (m *Master) newest() int {
-	gen := 0
-	for _, t := range m.All() {
-		gen = max(gen, t.Gen)
-	}
-	return gen
 }
 
 // mayTellAll tells whether clients may have been told all plans, each by a number
